@@ -1,0 +1,57 @@
+// Package base has what several layers need of lists and names.
+package base
+
+import "roundelay/api"
+
+// IsName reports whether a text is 1 to api.MaxName letters a to z.
+func IsName(s string) bool {
+	if len(s) < 1 || len(s) > api.MaxName {
+		return false
+	}
+	for _, c := range s {
+		if c < 'a' || c > 'z' {
+			return false
+		}
+	}
+	return true
+}
+
+// Every reports whether all elements of a list have something.
+func Every[T any](l []T, has func(T) bool) bool {
+	for _, x := range l {
+		if !has(x) {
+			return false
+		}
+	}
+	return true
+}
+
+// Some reports whether an element of a list has something.
+func Some[T any](l []T, has func(T) bool) bool {
+	for _, x := range l {
+		if has(x) {
+			return true
+		}
+	}
+	return false
+}
+
+// First returns the first index of a list whose element has something, or -1.
+func First[T any](l []T, has func(T) bool) int {
+	for i, x := range l {
+		if has(x) {
+			return i
+		}
+	}
+	return -1
+}
+
+// Is returns a function that reports whether something is the same.
+func Is[T comparable](x T) func(T) bool {
+	return func(y T) bool { return x == y }
+}
+
+// Within reports whether a number is one of a list of so many elements.
+func Within(many int) func(int) bool {
+	return func(n int) bool { return n >= 0 && n < many }
+}
