@@ -8,12 +8,15 @@ func IsName(s string) bool {
 	if len(s) < 1 || len(s) > api.MaxName {
 		return false
 	}
+	right := true
+letters:
 	for _, c := range s {
 		if c < 'a' || c > 'z' {
-			return false
+			right = false
+			break letters
 		}
 	}
-	return true
+	return right
 }
 
 // Every reports whether all elements of a list have something.
