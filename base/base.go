@@ -1,7 +1,11 @@
 // Package base has what several layers need of lists and names.
 package base
 
-import "roundelay/api"
+import (
+	"strings"
+
+	"roundelay/api"
+)
 
 // IsName reports whether a text is 1 to api.MaxName letters a to z.
 func IsName(s string) bool {
@@ -57,4 +61,26 @@ func Is[T comparable](x T) func(T) bool {
 // Within reports whether a number is one of a list of so many elements.
 func Within(many int) func(int) bool {
 	return func(n int) bool { return n >= 0 && n < many }
+}
+
+// Blank reports whether a byte is layout by itself.
+func Blank(b byte) bool { return b == ' ' || b == '\n' }
+
+// Layout returns the index behind the layout at an index of a text: blanks, line feeds, and comments.
+func Layout(s string, at int) int {
+	for at < len(s) {
+		if Blank(s[at]) {
+			at++
+			continue
+		}
+		if s[at] != '#' {
+			break
+		}
+		if end := strings.IndexByte(s[at:], '\n'); end >= 0 {
+			at += end
+		} else {
+			at = len(s)
+		}
+	}
+	return at
 }
