@@ -84,3 +84,15 @@ func Layout(s string, at int) int {
 	}
 	return at
 }
+
+// Bodies returns the expressions of a definition: its Body, or those of its cases.
+func Bodies(d api.Def) []api.Expr {
+	if len(d.Cases) == 0 {
+		return []api.Expr{d.Body}
+	}
+	var l []api.Expr
+	for _, c := range d.Cases {
+		l = append(l, c.Body)
+	}
+	return l
+}

@@ -23,7 +23,7 @@ func Find(p api.Prog, name string) (int, api.Errno) {
 func calls(d api.Def) []string {
 	met := map[string]bool{}
 	var l []string
-	for _, b := range bodies(d) {
+	for _, b := range base.Bodies(d) {
 		for x := range places(b) {
 			if x.Kind == api.Call && !met[x.Name] {
 				met[x.Name] = true
@@ -222,7 +222,7 @@ func Simple(p api.Prog) (bool, api.Errno) {
 	if e := Check(p); e != api.OK {
 		return false, e
 	}
-	return base.Every(p.Defs, func(d api.Def) bool { return base.Every(bodies(d), simple) }), api.OK
+	return base.Every(p.Defs, func(d api.Def) bool { return base.Every(base.Bodies(d), simple) }), api.OK
 }
 
 // Pick returns the number of the case of a definition that has a head.
@@ -264,7 +264,7 @@ func Heads(p api.Prog) ([]string, []int, api.Errno) {
 		}
 	}
 	for _, d := range p.Defs {
-		for i, b := range bodies(d) {
+		for i, b := range base.Bodies(d) {
 			if len(d.Cases) > 0 {
 				add(head{d.Cases[i].Name, len(d.Cases[i].Vars)})
 			}
