@@ -60,45 +60,9 @@ func Reach(p api.Prog, name string) ([]string, api.Errno) {
 	return l, api.OK
 }
 
-// copied returns an expression that shares no memory with it, and in which each Var is what a function says.
-func copied(x api.Expr, put func(api.Expr) api.Expr) api.Expr {
-	if x.Kind == api.Var {
-		return put(x)
-	}
-	y := api.Expr{Kind: x.Kind, Name: x.Name}
-	for _, a := range x.Args {
-		y.Args = append(y.Args, copied(a, put))
-	}
-	return y
-}
-
-// same returns an expression of Kind Var as it is, but for its memory.
-func same(x api.Expr) api.Expr {
-	y := api.Expr{Kind: x.Kind, Name: x.Name}
-	for _, a := range x.Args {
-		y.Args = append(y.Args, copied(a, same))
-	}
-	return y
-}
-
-// copiedDef returns a definition that shares no memory with it.
-func copiedDef(d api.Def) api.Def {
-	c := api.Def{Name: d.Name, Params: slices.Clone(d.Params), Body: copied(d.Body, same)}
-	for _, k := range d.Cases {
-		c.Cases = append(c.Cases, api.Case{Name: k.Name, Vars: slices.Clone(k.Vars), Body: copied(k.Body, same)})
-	}
-	return c
-}
-
 // copiedProg returns the definitions that are kept, in memory of their own.
 func copiedProg(p api.Prog, keep func(api.Def) bool) api.Prog {
-	var q api.Prog
-	for _, d := range p.Defs {
-		if keep(d) {
-			q.Defs = append(q.Defs, copiedDef(d))
-		}
-	}
-	return q
+	return base.CopyProg(api.Prog{Defs: slices.DeleteFunc(slices.Clone(p.Defs), func(d api.Def) bool { return !keep(d) })})
 }
 
 // Only returns the program of the definitions that are reached from one.
@@ -156,15 +120,15 @@ func Subst(e api.Expr, vars []string, by []api.Expr) (api.Expr, api.Errno) {
 	var put func(x api.Expr) api.Expr
 	put = func(x api.Expr) api.Expr {
 		if y, is := find(x); is {
-			return copied(y, same)
+			return base.CopyExpr(y)
 		}
 		y := api.Expr{Kind: x.Kind, Name: x.Name}
 		for _, a := range x.Args {
-			y.Args = append(y.Args, copied(a, put))
+			y.Args = append(y.Args, put(a))
 		}
 		return y
 	}
-	return copied(e, put), api.OK
+	return put(e), api.OK
 }
 
 // renamed returns an expression whose calls of a definition have another name.

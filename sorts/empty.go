@@ -63,7 +63,7 @@ func (w work) only() api.Type {
 		to[s] = len(u.Sorts)
 		u.Sorts = append(u.Sorts, w.Sorts[s])
 	}
-	u = copied(u)
+	u = base.CopyType(u)
 	for _, s := range u.Sorts {
 		for _, a := range s.Alts {
 			for i, k := range a.Kids {
@@ -79,7 +79,7 @@ func Some(ty api.Type) (api.Tree, api.Errno) {
 	if e := Check(ty); e != api.OK {
 		return api.Tree{}, e
 	}
-	w := begin(copied(ty))
+	w := begin(base.CopyType(ty))
 	full, pick := w.full()
 	if !full[ty.Start] {
 		return api.Tree{}, api.ErrNone
@@ -102,7 +102,7 @@ func Trim(ty api.Type) (api.Type, api.Errno) {
 	if e := Check(ty); e != api.OK {
 		return api.Type{}, e
 	}
-	w := begin(copied(ty))
+	w := begin(base.CopyType(ty))
 	full, _ := w.full()
 	if !full[ty.Start] {
 		return api.Type{}, api.ErrNone

@@ -1,0 +1,65 @@
+package base
+
+import (
+	"slices"
+
+	"roundelay/api"
+	"roundelay/graph"
+)
+
+// CopyType returns a type that shares no memory with it.
+func CopyType(ty api.Type) api.Type {
+	c := api.Type{Sorts: slices.Clone(ty.Sorts), Start: ty.Start}
+	for i, s := range ty.Sorts {
+		c.Sorts[i].Alts = slices.Clone(s.Alts)
+		for j, a := range s.Alts {
+			c.Sorts[i].Alts[j].Kids = slices.Clone(a.Kids)
+		}
+	}
+	return c
+}
+
+// CopyRules returns rules that share no memory with them.
+func CopyRules(r api.Rules) api.Rules {
+	c := api.Rules{Rels: slices.Clone(r.Rels), Clauses: slices.Clone(r.Clauses)}
+	for i, x := range r.Clauses {
+		c.Clauses[i].Head = slices.Clone(x.Head)
+		for j, p := range x.Head {
+			c.Clauses[i].Head[j].Vars = slices.Clone(p.Vars)
+		}
+		c.Clauses[i].Body = slices.Clone(x.Body)
+		for j, a := range x.Body {
+			c.Clauses[i].Body[j].Args = slices.Clone(a.Args)
+		}
+	}
+	return c
+}
+
+// CopyGoal returns a goal that shares no memory with it.
+func CopyGoal(g api.Goal) api.Goal {
+	return api.Goal{Rel: g.Rel, Args: graph.Copies(g.Args)}
+}
+
+// CopyExpr returns an expression that shares no memory with it.
+func CopyExpr(x api.Expr) api.Expr {
+	x.Args = slices.Clone(x.Args)
+	for i, a := range x.Args {
+		x.Args[i] = CopyExpr(a)
+	}
+	return x
+}
+
+// CopyProg returns a program that shares no memory with it.
+func CopyProg(p api.Prog) api.Prog {
+	c := api.Prog{Defs: slices.Clone(p.Defs)}
+	for i, d := range p.Defs {
+		c.Defs[i].Params = slices.Clone(d.Params)
+		c.Defs[i].Body = CopyExpr(d.Body)
+		c.Defs[i].Cases = slices.Clone(d.Cases)
+		for j, k := range d.Cases {
+			c.Defs[i].Cases[j].Vars = slices.Clone(k.Vars)
+			c.Defs[i].Cases[j].Body = CopyExpr(k.Body)
+		}
+	}
+	return c
+}
