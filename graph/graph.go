@@ -7,10 +7,11 @@ import (
 	"roundelay/api"
 )
 
-// head is what a node is at once.
+// head is what a node is at once, and, where they are known, the classes of the nodes below, and 1.
 type head struct {
 	name string
 	many int
+	kids [api.MaxKids]int
 }
 
 // sign is what a node is, if the classes of the nodes below are known.
@@ -19,43 +20,89 @@ type sign struct {
 	kids  [api.MaxKids]int
 }
 
-// number gives numbers to keys, from 0 on, in the order in which they are met.
-func number[K comparable](many int, key func(int) K) ([]int, int) {
+// number gives numbers to the keys of some nodes, from one on, in the order in which they are met, and returns how many there are.
+func number[K comparable](nodes []int, from int, key func(node int) K, give func(node, number int)) int {
 	met := map[K]int{}
-	l := make([]int, many)
-	for i := range many {
-		k := key(i)
-		n, is := met[k]
+	for _, n := range nodes {
+		k := key(n)
+		at, is := met[k]
 		if !is {
-			n = len(met)
-			met[k] = n
+			at = from + len(met)
+			met[k] = at
 		}
-		l[i] = n
+		give(n, at)
 	}
-	return l, len(met)
+	return len(met)
+}
+
+// split returns the nodes from which all paths end, those below first, and all others.
+func split(nodes []api.Node) (ends, endless []int) {
+	const (
+		unmet = iota
+		open
+		ended
+		round
+	)
+	state := make([]int, len(nodes))
+	var visit func(n int)
+	visit = func(n int) {
+		state[n] = open
+		next := ended
+		for _, k := range nodes[n].Kids {
+			if state[k] == unmet {
+				visit(k)
+			}
+			if state[k] != ended {
+				next = round
+			}
+		}
+		state[n] = next
+		if next == ended {
+			ends = append(ends, n)
+		} else {
+			endless = append(endless, n)
+		}
+	}
+	for n := range nodes {
+		if state[n] == unmet {
+			visit(n)
+		}
+	}
+	return ends, endless
 }
 
 // refine returns the classes of nodes, and how many there are, until they no longer change, or are more than most.
 func refine(nodes []api.Node, most int) ([]int, int) {
-	class, many := number(len(nodes), func(i int) head { return head{nodes[i].Name, len(nodes[i].Kids)} })
-	for many <= most {
-		old := class
-		next, more := number(len(nodes), func(i int) sign {
-			s := sign{class: old[i]}
-			for j, k := range nodes[i].Kids {
+	class := make([]int, len(nodes))
+	give := func(n, c int) { class[n] = c }
+	ends, endless := split(nodes)
+	// What is below a node from which all paths end is known before it, so that its class is known at once.
+	known := number(ends, 0, func(n int) head {
+		h := head{name: nodes[n].Name, many: len(nodes[n].Kids)}
+		for j, k := range nodes[n].Kids {
+			h.kids[j] = class[k] + 1
+		}
+		return h
+	}, give)
+	many := number(endless, known, func(n int) head { return head{name: nodes[n].Name, many: len(nodes[n].Kids)} }, give)
+	for known+many <= most {
+		old := slices.Clone(class)
+		more := number(endless, known, func(n int) sign {
+			s := sign{class: old[n]}
+			for j, k := range nodes[n].Kids {
 				s.kids[j] = old[k] + 1
 			}
 			return s
-		})
+		}, give)
 		if more == many {
 			break
 		}
-		class, many = next, more
+		many = more
 	}
-	return class, many
+	return class, known + many
 }
 
-// Classes returns for each node the number of its class, in the order of their first nodes: nodes from which on trees are alike are in one class. No node has more than api.MaxKids nodes below.
+// Classes returns for each node the number of its class, from 0 on: nodes from which on trees are alike are in one class. No node has more than api.MaxKids nodes below.
 func Classes(nodes []api.Node) []int {
 	class, _ := refine(nodes, len(nodes))
 	return class
