@@ -63,3 +63,45 @@ func CopyProg(p api.Prog) api.Prog {
 	}
 	return c
 }
+
+// CopyBlock returns a block that shares no memory with it.
+func CopyBlock(b api.Block) api.Block {
+	b.Branches = slices.Clone(b.Branches)
+	for i, br := range b.Branches {
+		ops := slices.Clone(br.Ops)
+		for j, op := range ops {
+			ops[j].Args = slices.Clone(op.Args)
+		}
+		b.Branches[i].Ops = ops
+	}
+	return b
+}
+
+// CopyCore returns a core that shares no memory with it.
+func CopyCore(c api.Core) api.Core {
+	d := api.Core{Blocks: slices.Clone(c.Blocks)}
+	for i, b := range d.Blocks {
+		d.Blocks[i] = CopyBlock(b)
+	}
+	return d
+}
+
+// CopyFrame returns a frame that shares no memory with it.
+func CopyFrame(f api.Frame) api.Frame {
+	f.Slots = slices.Clone(f.Slots)
+	return f
+}
+
+// CopyState returns a state that shares no memory with it.
+func CopyState(s api.State) api.State {
+	s.Cells = graph.Moved(s.Cells, 0)
+	s.Calls = slices.Clone(s.Calls)
+	for i, x := range s.Calls {
+		s.Calls[i].Args = graph.Copies(x.Args)
+	}
+	s.Frames = slices.Clone(s.Frames)
+	for i, f := range s.Frames {
+		s.Frames[i] = CopyFrame(f)
+	}
+	return s
+}
