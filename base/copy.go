@@ -105,3 +105,25 @@ func CopyState(s api.State) api.State {
 	}
 	return s
 }
+
+// CopyTrace returns a trace that shares no memory with it.
+func CopyTrace(t api.Trace) api.Trace {
+	c := api.Trace{Core: CopyCore(t.Core), Now: CopyState(t.Now), Past: slices.Clone(t.Past)}
+	for i, d := range c.Past {
+		c.Past[i].Frame = CopyFrame(d.Frame)
+	}
+	return c
+}
+
+// CopyDisk returns a disk that shares no memory with it.
+func CopyDisk(d api.Disk) api.Disk {
+	d.Sectors = slices.Clone(d.Sectors)
+	for i, s := range d.Sectors {
+		d.Sectors[i] = slices.Clone(s)
+	}
+	d.Writes = slices.Clone(d.Writes)
+	for i, w := range d.Writes {
+		d.Writes[i].Data = slices.Clone(w.Data)
+	}
+	return d
+}

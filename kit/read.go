@@ -78,3 +78,9 @@ func (d *Dice) Prog() api.Prog {
 	s += "k[] = " + d.expr(nil, 2) + ".\n"
 	return P(s)
 }
+
+// Print is the script of a program.
+func Print(p api.Prog) string {
+	s, _ := script.Print(p)
+	return s
+}
