@@ -108,14 +108,14 @@ func (h *Heap) Save() (int, api.Errno) {
 }
 
 // Back makes the heap what it was in a version.
-func (h *Heap) Back(number int) api.Errno {
+func (h *Heap) Back(version int) api.Errno {
 	if !h.is() {
 		return api.ErrNone
 	}
-	if number < 0 || number >= len(h.versions) {
+	if version < 0 || version >= len(h.versions) {
 		return api.ErrNot
 	}
-	h.state = h.versions[number].copied()
+	h.state = h.versions[version].copied()
 	return api.OK
 }
 

@@ -345,49 +345,49 @@ func (a automaton) now() []bool {
 }
 
 // Words returns the first words that are accepted.
-func Words(t api.Tree, n int) ([]string, api.Errno) {
-	if _, e := Letters(t); e != api.OK {
+func Words(a api.Tree, n int) ([]string, api.Errno) {
+	if _, e := Letters(a); e != api.OK {
 		return nil, e
 	}
 	if n < 0 || n > 20 {
 		return nil, api.ErrRange
 	}
-	a := only(t)
-	can := [][]bool{a.now()}
+	m := only(a)
+	can := [][]bool{m.now()}
 	var l []string
 	// If there is no word of as many lengths as there are nodes, one after the other, there is no longer one.
-	for length, without := 0, 0; len(l) < n && without <= len(a.Nodes); length++ {
+	for length, without := 0, 0; len(l) < n && without <= len(m.Nodes); length++ {
 		without++
-		for w := range a.words(length, can) {
+		for w := range m.words(length, can) {
 			without = 0
 			l = append(l, w)
 			if len(l) == n {
 				break
 			}
 		}
-		can = append(can, a.further(can[length]))
+		can = append(can, m.further(can[length]))
 	}
 	return l, api.OK
 }
 
 // Count returns how many words of a length are accepted.
-func Count(t api.Tree, n int) (int, api.Errno) {
-	if _, e := Letters(t); e != api.OK {
+func Count(a api.Tree, n int) (int, api.Errno) {
+	if _, e := Letters(a); e != api.OK {
 		return 0, e
 	}
 	if n < 0 || n > 30 {
 		return 0, api.ErrRange
 	}
-	a := only(t)
-	many := make([]int, len(a.Nodes))
-	for i, is := range a.now() {
+	m := only(a)
+	many := make([]int, len(m.Nodes))
+	for i, is := range m.now() {
 		if is {
 			many[i] = 1
 		}
 	}
 	for range n {
 		next := make([]int, len(many))
-		for i, x := range a.Nodes {
+		for i, x := range m.Nodes {
 			for _, k := range x.Kids {
 				next[i] += many[k]
 			}
@@ -398,25 +398,25 @@ func Count(t api.Tree, n int) (int, api.Errno) {
 }
 
 // Finite reports whether just finitely many words are accepted.
-func Finite(t api.Tree) (bool, api.Errno) {
-	if _, e := Letters(t); e != api.OK {
+func Finite(a api.Tree) (bool, api.Errno) {
+	if _, e := Letters(a); e != api.OK {
 		return false, e
 	}
 	// There are infinitely many words just if there is one that has as many letters as there are nodes, and less than twice as many.
-	a := only(t)
-	can := a.now()
-	for length := range 2 * len(a.Nodes) {
-		if length >= len(a.Nodes) && can[0] {
+	m := only(a)
+	can := m.now()
+	for length := range 2 * len(m.Nodes) {
+		if length >= len(m.Nodes) && can[0] {
 			return false, api.OK
 		}
-		can = a.further(can)
+		can = m.further(can)
 	}
 	return true, api.OK
 }
 
 // Beat returns the stream of the lengths of the words that are accepted by an automaton of one letter.
-func Beat(t api.Tree) (api.Lasso, api.Errno) {
-	k, e := Letters(t)
+func Beat(a api.Tree) (api.Lasso, api.Errno) {
+	k, e := Letters(a)
 	if e != api.OK {
 		return api.Lasso{}, e
 	}
@@ -424,15 +424,15 @@ func Beat(t api.Tree) (api.Lasso, api.Errno) {
 		return api.Lasso{}, api.ErrRange
 	}
 	// The nodes of a trimmed automaton of one letter come one after the other, and then go round.
-	a := only(t)
+	m := only(a)
 	var values []int
-	for i := range a.Nodes {
+	for i := range m.Nodes {
 		v := 0
-		if a.accepts(i) {
+		if m.accepts(i) {
 			v = 1
 		}
 		values = append(values, v)
 	}
-	stem := a.Nodes[len(a.Nodes)-1].Kids[0]
+	stem := m.Nodes[len(m.Nodes)-1].Kids[0]
 	return lasso.Least(api.Lasso{Mod: 2, Stem: values[:stem], Round: values[stem:]})
 }
