@@ -183,12 +183,19 @@ func Least(t api.Tree) (api.Tree, api.Errno) {
 
 // Moved returns nodes whose numbers below are greater by a number.
 func Moved(nodes []api.Node, by int) []api.Node {
+	many := 0
+	for _, n := range nodes {
+		many += len(n.Kids)
+	}
 	l := slices.Clone(nodes)
+	// All numbers are made at once, as there are many small lists of them; each list has its own part.
+	all := make([]int, 0, many)
 	for i, n := range l {
-		l[i].Kids = slices.Clone(n.Kids)
-		for j := range n.Kids {
-			l[i].Kids[j] += by
+		from := len(all)
+		for _, k := range n.Kids {
+			all = append(all, k+by)
 		}
+		l[i].Kids = all[from:len(all):len(all)]
 	}
 	return l
 }
