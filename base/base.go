@@ -96,3 +96,24 @@ func Bodies(d api.Def) []api.Expr {
 	}
 	return l
 }
+
+// Number returns the number that a word is: 0, or 1 to 4 digits without 0 at the beginning.
+func Number(s string) (int, bool) {
+	if len(s) < 1 || len(s) > 4 || s[0] == '0' && len(s) > 1 {
+		return 0, false
+	}
+	n := 0
+	for i := range len(s) {
+		if s[i] < '0' || s[i] > '9' {
+			return 0, false
+		}
+		n = n*10 + int(s[i]-'0')
+	}
+	return n, true
+}
+
+// Has reports whether a map has a key.
+func Has[K comparable, V any](m map[K]V, k K) bool {
+	_, is := m[k]
+	return is
+}

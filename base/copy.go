@@ -40,6 +40,16 @@ func CopyGoal(g api.Goal) api.Goal {
 	return api.Goal{Rel: g.Rel, Args: graph.Copies(g.Args)}
 }
 
+// LeastGoal returns a right goal with least graphs.
+func LeastGoal(g api.Goal) api.Goal {
+	l := api.Goal{Rel: g.Rel}
+	for _, t := range g.Args {
+		u, _ := graph.Least(t)
+		l.Args = append(l.Args, u)
+	}
+	return l
+}
+
 // CopyExpr returns an expression that shares no memory with it.
 func CopyExpr(x api.Expr) api.Expr {
 	x.Args = slices.Clone(x.Args)

@@ -162,21 +162,6 @@ func (w *words) next() string {
 	return word
 }
 
-// decimal returns the number that a word is.
-func decimal(s string) (int, bool) {
-	if len(s) < 1 || len(s) > 4 || s[0] == '0' && len(s) > 1 {
-		return 0, false
-	}
-	n := 0
-	for i := range len(s) {
-		if s[i] < '0' || s[i] > '9' {
-			return 0, false
-		}
-		n = n*10 + int(s[i]-'0')
-	}
-	return n, true
-}
-
 // The states of an assembler: what comes next.
 const (
 	wantsBlock = iota
@@ -203,7 +188,7 @@ func (a *assembler) branch() *api.Branch {
 // beginBlock reads what is behind "block".
 func (a *assembler) beginBlock(w *words) api.Errno {
 	name := w.next()
-	arity, is := decimal(w.next())
+	arity, is := base.Number(w.next())
 	if a.state != wantsBlock && a.state != behind || !base.IsName(name) || !is || len(w.list) > 0 {
 		return api.ErrForm
 	}
@@ -221,7 +206,7 @@ func (a *assembler) beginBranch(w *words) api.Errno {
 	var br api.Branch
 	if word != "any" {
 		head, kids, _ := strings.Cut(word, "/")
-		n, is := decimal(kids)
+		n, is := base.Number(kids)
 		if !is || !base.IsName(head) {
 			return api.ErrForm
 		}
@@ -245,7 +230,7 @@ func (a *assembler) args(w *words) ([]int, api.Errno) {
 	e := api.OK
 	for len(w.list) > 0 {
 		word := w.next()
-		n, is := decimal(word)
+		n, is := base.Number(word)
 		switch {
 		case is:
 		case !base.IsName(word):
@@ -282,7 +267,7 @@ func (a *assembler) operation(word string, w *words) api.Errno {
 	}
 	at := len(a.branch().Ops)
 	label, isLabel := strings.CutSuffix(word, ":")
-	n, isNumber := decimal(word)
+	n, isNumber := base.Number(word)
 	if isLabel && !base.IsName(label) || isNumber && n != at {
 		return api.ErrForm
 	}
@@ -296,7 +281,7 @@ func (a *assembler) operation(word string, w *words) api.Errno {
 	case -1:
 		return api.ErrForm
 	case core.Take, core.Below:
-		n, is := decimal(w.next())
+		n, is := base.Number(w.next())
 		if !is || len(w.list) > 0 {
 			return api.ErrForm
 		}

@@ -48,13 +48,6 @@ func (r *runner) begin(block int, args []api.Tree) (n int, isNew bool) {
 	return n, true
 }
 
-// load adds the nodes of a tree as cells, and returns the place of its root.
-func (r *runner) load(t api.Tree) int {
-	at := len(r.Cells)
-	r.Cells = append(r.Cells, graph.Moved(t.Nodes, at)...)
-	return at + t.Root
-}
-
 // branch returns the branch of a call, if there is one.
 func (r *runner) branch(c call) (api.Branch, bool) {
 	for _, br := range r.Blocks[c.block].Branches {
@@ -119,9 +112,9 @@ way:
 func (r *runner) operate(c call, op api.Op, slots []int) (int, api.Errno) {
 	switch op.Kind {
 	case Take:
-		return r.load(c.args[op.Num]), api.OK
+		return r.Load(c.args[op.Num]), api.OK
 	case Below:
-		first := r.load(c.args[0])
+		first := r.Load(c.args[0])
 		return r.Cells[first].Kids[op.Num], api.OK
 	}
 	places := make([]int, len(op.Args))
@@ -134,7 +127,7 @@ func (r *runner) operate(c call, op api.Op, slots []int) (int, api.Errno) {
 	}
 	var args []api.Tree
 	for _, p := range places {
-		t, e := r.least(p)
+		t, e := r.Least(p)
 		if e != api.OK {
 			return 0, e
 		}
@@ -142,15 +135,6 @@ func (r *runner) operate(c call, op api.Op, slots []int) (int, api.Errno) {
 	}
 	find := r.find
 	return r.goTo(find(op.Name), args, op.Kind == Ask)
-}
-
-// least returns the least graph of the tree at a place: ErrWait if it is not whole, ErrMany.
-func (r *runner) least(place int) (api.Tree, api.Errno) {
-	t, is := r.Tree(place)
-	if !is {
-		return api.Tree{}, api.ErrWait
-	}
-	return graph.Least(t)
 }
 
 // goTo goes through the call of a block, and returns the place of its value.
@@ -164,7 +148,7 @@ func (r *runner) goTo(block int, args []api.Tree, asks bool) (int, api.Errno) {
 	if !asks {
 		return -1 - n, api.OK
 	}
-	if _, e := r.least(-1 - n); e != api.OK {
+	if _, e := r.Least(-1 - n); e != api.OK {
 		return 0, e
 	}
 	// What was asked for is a cell, so that a call whose result it is does not pass on.
@@ -194,5 +178,5 @@ func Value(c api.Core, name string, args []api.Tree) (api.Tree, api.Errno) {
 	if e := r.through(n); e != api.OK {
 		return api.Tree{}, e
 	}
-	return r.least(-1)
+	return r.Least(-1)
 }

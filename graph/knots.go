@@ -55,6 +55,22 @@ func (k Knots) Tree(place int) (api.Tree, bool) {
 	return t, true
 }
 
+// Load adds the nodes of a tree as cells, and returns the place of its root.
+func (k *Knots) Load(t api.Tree) int {
+	at := len(k.Cells)
+	k.Cells = append(k.Cells, Moved(t.Nodes, at)...)
+	return at + t.Root
+}
+
+// Least returns the least graph of the tree at a place: ErrWait if an open place is met, ErrMany.
+func (k *Knots) Least(place int) (api.Tree, api.Errno) {
+	t, is := k.Tree(place)
+	if !is {
+		return api.Tree{}, api.ErrWait
+	}
+	return Least(t)
+}
+
 // Key returns a text that is the same for two graphs just if they are the same, node by node.
 func Key(t api.Tree) string {
 	var b strings.Builder

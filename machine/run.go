@@ -52,19 +52,13 @@ func (r *runner) there(k key) (int, bool) {
 	if r.calls == nil {
 		r.calls = map[key]int{}
 		for i := range len(r.Calls) {
-			if old := keyOf(r.Calls[i].Block, r.Calls[i].Args); !has(r.calls, old) {
+			if old := keyOf(r.Calls[i].Block, r.Calls[i].Args); !base.Has(r.calls, old) {
 				r.calls[old] = i
 			}
 		}
 	}
 	n, is := r.calls[k]
 	return n, is
-}
-
-// has reports whether a map has a key.
-func has[K comparable, V any](m map[K]V, k K) bool {
-	_, is := m[k]
-	return is
 }
 
 // begin begins a call of a block with least graphs, which is not there: ErrGrow, ErrStuck.

@@ -5,7 +5,6 @@ import (
 
 	"roundelay/api"
 	"roundelay/base"
-	"roundelay/graph"
 	"roundelay/rel"
 )
 
@@ -20,16 +19,6 @@ func right(r api.Rules, p api.Proof) api.Errno {
 	return api.OK
 }
 
-// least returns a goal with least graphs.
-func least(g api.Goal) api.Goal {
-	l := api.Goal{Rel: g.Rel}
-	for _, t := range g.Args {
-		u, _ := graph.Least(t)
-		l.Args = append(l.Args, u)
-	}
-	return l
-}
-
 // from returns the tidy proof of a goal of a proof.
 func from(r api.Rules, p api.Proof, g api.Goal) api.Proof {
 	first := places(p.Goals)
@@ -40,7 +29,7 @@ func from(r api.Rules, p api.Proof, g api.Goal) api.Proof {
 		k := keyOf(g)
 		if !met[k] {
 			met[k] = true
-			w.goals = append(w.goals, least(g))
+			w.goals = append(w.goals, base.LeastGoal(g))
 			tidy.Clauses = append(tidy.Clauses, p.Clauses[first[k][0]])
 		}
 	}

@@ -22,16 +22,6 @@ func keyOf(g api.Goal) key {
 	return k
 }
 
-// least returns a goal with least graphs.
-func least(g api.Goal) api.Goal {
-	l := api.Goal{Rel: g.Rel}
-	for _, t := range g.Args {
-		u, _ := graph.Least(t)
-		l.Args = append(l.Args, u)
-	}
-	return l
-}
-
 // stands returns the tree that each variable of a clause stands for in a goal of its relation, if the clause fits it.
 func stands(c api.Clause, g api.Goal) (map[string]api.Tree, bool) {
 	m := map[string]api.Tree{}
@@ -125,7 +115,7 @@ func ask(r api.Rules, g api.Goal) (*question, api.Errno) {
 		return nil, e
 	}
 	q := &question{work: begin(r), at: map[key]int{}}
-	q.add(least(g))
+	q.add(base.LeastGoal(g))
 	for i := 0; i < len(q.goals); i++ {
 		next, fits := make([][]int, len(r.Clauses)), make([]bool, len(r.Clauses))
 		for c, l := range q.allBelow(q.goals[i]) {

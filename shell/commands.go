@@ -5,6 +5,7 @@ import (
 
 	"roundelay/alike"
 	"roundelay/api"
+	"roundelay/base"
 	"roundelay/heap"
 	"roundelay/machine"
 	"roundelay/rel"
@@ -153,8 +154,8 @@ func same(w *work, args []string) (string, api.Errno) {
 
 // relation is rel.
 func relation(w *work, args []string) (string, api.Errno) {
-	arity, _ := number(args[1])
-	rank, _ := number(args[2])
+	arity, _ := base.Number(args[1])
+	rank, _ := base.Number(args[2])
 	w.Rules.Rels = append(w.Rules.Rels, api.Rel{Name: args[0], Arity: arity, Rank: rank})
 	return done, rel.Check(w.Rules)
 }
@@ -209,13 +210,13 @@ func (w *work) move(by int) (string, api.Errno) {
 
 // step is step.
 func step(w *work, args []string) (string, api.Errno) {
-	n, _ := number(args[0])
+	n, _ := base.Number(args[0])
 	return w.move(n)
 }
 
 // back is back.
 func back(w *work, args []string) (string, api.Errno) {
-	n, _ := number(args[0])
+	n, _ := base.Number(args[0])
 	return w.move(-n)
 }
 

@@ -27,24 +27,9 @@ func words(s string) func(yield func(string) bool) {
 	}
 }
 
-// number returns the number that a word is.
-func number(s string) (int, bool) {
-	if len(s) < 1 || len(s) > 4 || s[0] == '0' && len(s) > 1 {
-		return 0, false
-	}
-	n := 0
-	for i := range len(s) {
-		if s[i] < '0' || s[i] > '9' {
-			return 0, false
-		}
-		n = n*10 + int(s[i]-'0')
-	}
-	return n, true
-}
-
 // isNumber reports whether a word is a number.
 func isNumber(s string) bool {
-	_, is := number(s)
+	_, is := base.Number(s)
 	return is
 }
 

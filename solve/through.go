@@ -118,7 +118,7 @@ func (s *solver) goTo(from int, name string, args []api.Tree, inner bool) (int, 
 		s.earliest = k
 		return 0, api.ErrWait
 	}
-	if _, e := s.least(-1 - n); e != api.OK {
+	if _, e := s.Least(-1 - n); e != api.OK {
 		return 0, e
 	}
 	return -1 - n, api.OK
@@ -228,18 +228,12 @@ func (s *shower) begin() {
 			args = append(args, u)
 		}
 		s.Rows[i].Args = args
-		if k := keyOf(r.Name, args...); !has(s.at, k) {
+		if k := keyOf(r.Name, args...); !base.Has(s.at, k) {
 			s.at[k] = i
 		}
-		s.values = append(s.values, s.load(r.Value))
+		s.values = append(s.values, s.Load(r.Value))
 		s.once = append(s.once, -1)
 	}
-}
-
-// has reports whether a map has a key.
-func has[K comparable, V any](m map[K]V, k K) bool {
-	_, is := m[k]
-	return is
 }
 
 // goTo returns the place of the value of the row that a Call of the body of a row calls: an error if there is none, or its rank is too great.
@@ -271,8 +265,8 @@ func (s *shower) row(i int) bool {
 	if e != api.OK {
 		return false
 	}
-	t, e := s.least(place)
-	u, _ := s.least(s.values[i])
+	t, e := s.Least(place)
+	u, _ := s.Least(s.values[i])
 	if !s.passes(s.Rows[i]) {
 		s.once[i] = -1
 	}
