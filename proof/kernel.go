@@ -131,7 +131,7 @@ func checkRefutation(r api.Rules, x api.Refutation) api.Errno {
 	return checkGoals(r, x.Goals, right)
 }
 
-// proof returns a proof at work, if each clause fits its goal, and all goals below are among its goals.
+// proofOf returns a proof at work, if each clause fits its goal, and all goals below are among its goals.
 func proofOf(r api.Rules, p api.Proof) (work, bool) {
 	w := work{r, p.Goals, make([][]int, len(p.Goals))}
 	at := places(p.Goals)
@@ -184,7 +184,7 @@ func isRefutation(r api.Rules, x api.Refutation) bool {
 	return !isRound(w.next, w.ranks(), odd)
 }
 
-// sameAs returns a function that reports whether a goal is the same.
+// sameAs is a goal that others are held against.
 type sameAs struct{ api.Goal }
 
 // is reports whether another goal is the same.

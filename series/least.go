@@ -93,9 +93,11 @@ func (s *span) ask(row []int) (made []int, isNew bool) {
 			made[j] = (made[j] + x*times) % field.P
 		}
 	}
-	for i, p := range s.pivots {
-		if left[p.place] != 0 {
-			take(i, left[p.place])
+	// Each chosen row is 0 before its pivot, so that what was made 0 stays so.
+	for place := range left {
+		n := base.First(s.pivots, func(p pivot) bool { return p == pivot{p.number, place} })
+		if n >= 0 && left[place] != 0 {
+			take(n, left[place])
 		}
 	}
 	place := base.First(left, func(x int) bool { return x != 0 })
@@ -105,9 +107,7 @@ func (s *span) ask(row []int) (made []int, isNew bool) {
 	by, _ := field.Inv(left[place])
 	own := scaled(made, field.P-1)
 	own[len(s.pivots)] = 1
-	if p := (pivot{len(s.pivots), place}); !slices.Contains(s.pivots, p) {
-		s.pivots = append(s.pivots, p)
-	}
+	s.pivots = append(s.pivots, pivot{len(s.pivots), place})
 	s.left = append(s.left, scaled(left, by))
 	s.made = append(s.made, scaled(own, by))
 	return nil, true
