@@ -154,7 +154,7 @@ func TestGrowing(t *testing.T) { // P11.3
 func TestWhatFollows(t *testing.T) { // P11.4
 	var d kit.Dice
 	clocked, bounded := 0, 0
-	for i := range 4000 {
+	for i := range 1500 {
 		p := d.Prog()
 		c, e := clock.Least(p)
 		is, _ := clock.Clocked(p)
