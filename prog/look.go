@@ -143,6 +143,17 @@ func renamed(x api.Expr, from, to string) api.Expr {
 	return x
 }
 
+// renameCalls gives the calls in the expressions of a definition another name. A Body beside Cases is no expression of it, so what looks like a call there stays as it is.
+func renameCalls(d *api.Def, from, to string) {
+	if len(d.Cases) == 0 {
+		d.Body = renamed(d.Body, from, to)
+		return
+	}
+	for i, c := range d.Cases {
+		d.Cases[i].Body = renamed(c.Body, from, to)
+	}
+}
+
 // Rename returns a program in which a definition has another name.
 func Rename(p api.Prog, from, to string) (api.Prog, api.Errno) {
 	n, e := Find(p, from)
@@ -157,11 +168,8 @@ func Rename(p api.Prog, from, to string) (api.Prog, api.Errno) {
 	}
 	q := copiedProg(p, func(api.Def) bool { return true })
 	q.Defs[n].Name = to
-	for i, d := range q.Defs {
-		q.Defs[i].Body = renamed(d.Body, from, to)
-		for j, c := range d.Cases {
-			d.Cases[j].Body = renamed(c.Body, from, to)
-		}
+	for i := range q.Defs {
+		renameCalls(&q.Defs[i], from, to)
 	}
 	return q, api.OK
 }

@@ -182,3 +182,51 @@ func TestWhatFollows(t *testing.T) { // P7.4
 		t.Error(s, same)
 	}
 }
+
+// beside is a program whose second definition has, beside its Cases, a Body that is no expression: it is as wrong as can be, and has a call of a name in it.
+func beside(called string) api.Prog {
+	j := cases("j", []string{"u"}, kase("s", c("fa", v("t")), "t"), kase("p", m("q", c("fa", v("t")), v("w")), "t", "w"))
+	j.Body = ex{Name: called, Args: []ex{c(called), c("f", c(called), m("zz"), v("V")), {Kind: 9, Args: []ex{deep(30)}}, {Kind: api.Var, Name: called, Args: []ex{c(called)}}}}
+	return p(cases("fa", []string{"v"}, kase("p", v("t"), "t")), j, def("k", c("j", m("a"))))
+}
+
+func TestBodyBesideCases(t *testing.T) { // P7.1, P7.2, P7.3
+	g := beside("fa")
+	calls, e := prog.Calls(g, "j")
+	reach, e1 := prog.Reach(g, "k")
+	is, e2 := prog.Simple(g)
+	names, _, e3 := prog.Heads(g)
+	if e != api.OK || e1 != api.OK || e2 != api.OK || e3 != api.OK || !slices.Equal(calls, []string{"fa"}) || !slices.Equal(reach, []string{"k", "j", "fa"}) || !is || !slices.Equal(names, []string{"p", "s", "p", "q", "a"}) {
+		t.Error(e, e1, e2, e3, calls, reach, is, names)
+	}
+	o, e := prog.Only(g, "j")
+	a, e1 := prog.Add(p(g.Defs[0]), g.Defs[1])
+	if e != api.OK || e1 != api.OK || !prog.Same(o, p(g.Defs[:2]...)) || !prog.Same(a, o) {
+		t.Error(o, a, e, e1)
+	}
+	r, e := prog.Rename(g, "fa", "w")
+	if e != api.OK || r.Defs[0].Name != "w" || !prog.SameExpr(r.Defs[1].Body, beside("fa").Defs[1].Body) || !prog.SameExpr(r.Defs[1].Cases[0].Body, c("w", v("t"))) || !prog.SameExpr(r.Defs[1].Cases[1].Body, m("q", c("w", v("t")), v("w"))) {
+		t.Error(r, e)
+	}
+	r.Defs[1].Body.Args[1].Args[0].Name = "z"
+	if !prog.Same(g, beside("fa")) {
+		t.Error("memory is shared")
+	}
+	s, e := prog.Rename(g, "j", "fb")
+	if e != api.OK || s.Defs[1].Name != "fb" || !prog.SameExpr(s.Defs[1].Body, g.Defs[1].Body) || !prog.SameExpr(s.Defs[2].Body, c("fb", m("a"))) {
+		t.Error(s, e)
+	}
+}
+
+func TestBodyBesideCasesThereAndBack(t *testing.T) { // P7.4
+	for _, called := range []string{"w", "fa", "j", "k", "none"} {
+		for _, name := range []string{"fa", "j", "k"} {
+			g := beside(called)
+			r, e := prog.Rename(g, name, "w")
+			s, f := prog.Rename(r, "w", name)
+			if e != api.OK || f != api.OK || !prog.Same(s, g) {
+				t.Error(called, name, e, f, s)
+			}
+		}
+	}
+}
